@@ -96,6 +96,16 @@ func nameOk(name string) bool {
 	return true
 }
 
+// namesAscend says whether texts are names, and ascend.
+func namesAscend(names []string) bool {
+	for i, name := range names {
+		if !nameOk(name) || i > 0 && names[i-1] >= name {
+			return false
+		}
+	}
+	return true
+}
+
 func isDigit(b byte) bool {
 	return b >= '0' && b <= '9'
 }
@@ -148,10 +158,7 @@ func newListTree(kids []sortedTree) listTree {
 }
 
 func newFormTree(names []string, kids []sortedTree) formTree {
-	treeWant(len(names) == len(kids))
-	for i, name := range names {
-		treeWant(nameOk(name) && (i == 0 || names[i-1] < name))
-	}
+	treeWant(len(names) == len(kids) && namesAscend(names))
 	return formTree{names: names, kids: kids}
 }
 
@@ -335,16 +342,68 @@ func hasJustItsOwn(t Tree) bool {
 		(has.kids || len(t.Kids) == 0)
 }
 
-// treeReader reads a text from its beginning on; sorts are told by their first byte.
+// textReader reads a text from its beginning on; what must come now, and does not, is a fault.
+type textReader struct {
+	text string
+	at   int
+}
+
+// next is the byte that is to be read; 0 at the end, which begins no tree.
+func (r *textReader) next() byte {
+	if r.at == len(r.text) {
+		return 0
+	}
+	return r.text[r.at]
+}
+
+// skip reads a word, if it comes now, and says whether it did.
+func (r *textReader) skip(word string) bool {
+	if !strings.HasPrefix(r.text[r.at:], word) {
+		return false
+	}
+	r.at += len(word)
+	return true
+}
+
+// take reads a word that must come now.
+func (r *textReader) take(word string) {
+	treeWant(r.skip(word))
+}
+
+// run reads on as long as bytes belong to it.
+func (r *textReader) run(belongs func(byte) bool) string {
+	from := r.at
+	for r.at < len(r.text) && belongs(r.text[r.at]) {
+		r.at++
+	}
+	return r.text[from:r.at]
+}
+
+// more says whether a kid comes, so many being read; what ends them, or stands between two, is taken.
+func (r *textReader) more(end string, kids int) bool {
+	if r.skip(end) {
+		return false
+	}
+	if kids > 0 {
+		r.take(",")
+	}
+	return true
+}
+
+// end wants that all of the text was read.
+func (r *textReader) end() {
+	treeWant(r.at == len(r.text))
+}
+
+// treeReader reads a text as a tree; sorts are told by their first byte.
 type treeReader struct {
 	treeBounds
-	text  string
-	at    int
+	textReader
 	sorts [256]func() sortedTree
 }
 
 func newTreeReader(text string) *treeReader {
-	r := &treeReader{text: text}
+	r := &treeReader{textReader: textReader{text: text}}
 	for digit := '0'; digit <= '9'; digit++ {
 		r.sorts[digit] = r.num
 	}
@@ -363,7 +422,7 @@ func newTreeReader(text string) *treeReader {
 func (r *treeReader) whole() sortedTree {
 	treeWant(len(r.text) <= TreeMaxWrite)
 	sorted := r.tree()
-	treeWant(r.at == len(r.text))
+	r.end()
 	return sorted
 }
 
@@ -374,37 +433,6 @@ func (r *treeReader) tree() sortedTree {
 	sorted := read()
 	r.leave()
 	return sorted
-}
-
-// next is the byte that is to be read; 0 at the end, which begins no tree.
-func (r *treeReader) next() byte {
-	if r.at == len(r.text) {
-		return 0
-	}
-	return r.text[r.at]
-}
-
-// skip reads a word, if it comes now, and says whether it did.
-func (r *treeReader) skip(word string) bool {
-	if !strings.HasPrefix(r.text[r.at:], word) {
-		return false
-	}
-	r.at += len(word)
-	return true
-}
-
-// take reads a word that must come now.
-func (r *treeReader) take(word string) {
-	treeWant(r.skip(word))
-}
-
-// run reads on as long as bytes belong to it.
-func (r *treeReader) run(belongs func(byte) bool) string {
-	from := r.at
-	for r.at < len(r.text) && belongs(r.text[r.at]) {
-		r.at++
-	}
-	return r.text[from:r.at]
 }
 
 func (r *treeReader) num() sortedTree {
@@ -452,17 +480,6 @@ func (r *treeReader) form() sortedTree {
 		kids = append(kids, r.tree())
 	}
 	return newFormTree(names, kids)
-}
-
-// more says whether a kid comes, so many being read; what ends them, or stands between two, is taken.
-func (r *treeReader) more(end string, kids int) bool {
-	if r.skip(end) {
-		return false
-	}
-	if kids > 0 {
-		r.take(",")
-	}
-	return true
 }
 
 func (r *treeReader) maybe() sortedTree {
