@@ -379,6 +379,18 @@ func (r *textReader) run(belongs func(byte) bool) string {
 	return r.text[from:r.at]
 }
 
+// number reads a whole number that must come now.
+func (r *textReader) number() int {
+	from := r.at
+	r.skip("-")
+	r.run(isDigit)
+	word := r.text[from:r.at]
+	num, err := strconv.Atoi(word)
+	// Atoi takes noughts ahead and -0 too, which no number is written with.
+	treeWant(err == nil && strconv.Itoa(num) == word)
+	return num
+}
+
 // more says whether a kid comes, so many being read; what ends them, or stands between two, is taken.
 func (r *textReader) more(end string, kids int) bool {
 	if r.skip(end) {
@@ -436,14 +448,7 @@ func (r *treeReader) tree() sortedTree {
 }
 
 func (r *treeReader) num() sortedTree {
-	from := r.at
-	r.skip("-")
-	r.run(isDigit)
-	word := r.text[from:r.at]
-	num, err := strconv.Atoi(word)
-	// Atoi takes noughts ahead and -0 too, which no tree has.
-	treeWant(err == nil && strconv.Itoa(num) == word)
-	return newNumTree(num)
+	return newNumTree(r.number())
 }
 
 func (r *treeReader) quoted() sortedTree {
