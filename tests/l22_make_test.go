@@ -24,7 +24,6 @@ var codeOfNode = map[string]string{
 // coder tells code as lines in which places are still marks, such as <3L>.
 type coder struct {
 	lines []string
-	marks []string
 	nodes int
 }
 
@@ -284,7 +283,7 @@ func TestMadeJumps(t *testing.T) {
 	}
 }
 
-// chainOf is `case` in `case` on one side, as deep as it may be, until there are so many nodes, and how many ops its code has.
+// casesOf is one row of `case` within `case` behind the other, until there are so many nodes, or hardly fewer.
 func casesOf(nodes int) node {
 	one := func(levels int) node {
 		n := nNum(1)

@@ -367,14 +367,12 @@ func TestMachineLocals(t *testing.T) {
 // The list that a loop leaves is just ok, or one part, level or element too big.
 func TestMachineBigLists(t *testing.T) {
 	// Twenty lists; with one more around each of them they have twenty parts more.
-	rows := func(parts int) (tree, kind) {
+	rows := func(size int) (tree, kind) {
 		x := list(repeat(list(), 20)...)
-		for i := 0; ; i = (i + 1) % 20 {
-			if n := 1; countParts(x)+n > parts {
-				return x, kList(kList(kNum))
-			}
+		for i := 0; parts(x) < size; i = (i + 1) % 20 {
 			x.Kids[i] = list(append(x.Kids[i].Kids, num(1))...)
 		}
+		return x, kList(kList(kNum))
 	}
 	loopOver := func(x tree, k kind, more string) []codeOp {
 		ops := readCode(t, "push 1 num; loop map 4 num; var 1; "+more+"next 2; bind; stop")
@@ -383,10 +381,10 @@ func TestMachineBigLists(t *testing.T) {
 		return ops
 	}
 	old := readTree(t, someOld)
-	for _, parts := range []int{98, 99, 100, 101, 102} {
-		x, k := rows(parts)
+	for _, size := range []int{98, 99, 100, 101, 102} {
+		x, k := rows(size)
 		wanted := "drop"
-		if parts > 100 {
+		if size > 100 {
 			wanted = "stop 4 0"
 		}
 		for _, more := range []string{"do one; ", "do some; ", "do form a; "} {
@@ -416,9 +414,7 @@ func TestMachineBigLists(t *testing.T) {
 	wantTextDone(t, `push [1,2] [num]; push "q" text; loop fold 5 num; push yes flag; next 3; `+shows, "emit {a:yes}")
 }
 
-func countParts(x tree) int { return parts(x) }
-
-// counted is code that goes round so many times, ten ops each, does some more ops of one sort, and then what ends it; it is told how many ops it does up to the end.
+// counted is code that goes round so many times, ten ops each, and then does what ends it.
 func counted(t *testing.T, rounds int, end string) []codeOp {
 	return readCode(t, fmt.Sprintf("push %d num; bind; push 0 num; var 1; do less; no 12; var 1; push 1 num; do sub; free; bind; jump 2; ", rounds)+end)
 }

@@ -98,21 +98,19 @@ func toldLines(book []chainType) string {
 }
 
 // sinksBehind are the sinks of a version that is not the last one.
-func sinksBehind(book []chainType, kind, version int) (sinks []liftSink, told [][2]string) {
-	put := func(name string, v int, k kind2) {
+func sinksBehind(book []chainType, at, version int) (sinks []liftSink, told [][2]string) {
+	put := func(name string, v int, k kind) {
 		sinks = append(sinks, aSink(name, v, k))
 		told = append(told, [2]string{fmt.Sprintf("%s@%d", name, v), textOf(k)})
 	}
-	put("", 0, book[kind].Versions[version+1].Kind)
-	for _, one := range book[kind+1:] {
+	put("", 0, book[at].Versions[version+1].Kind)
+	for _, one := range book[at+1:] {
 		for i, v := range one.Versions {
 			put(one.Name, i+1, v.Kind)
 		}
 	}
 	return sinks, told
 }
-
-type kind2 = kind
 
 // fanTeller tells fans as the document does, with numbers that have no end.
 type fanTeller struct {
@@ -381,6 +379,10 @@ func TestBookBounds(t *testing.T) {
 	if f := impl.ChainCheck(bookOf(t, "type a"+v+strings.Repeat(wide, 10)+"lift drop"+v)); f != (chainFault{}) {
 		t.Errorf("nothing comes of far too many: %v", f)
 	}
+	// Fans that are reckoned anew for each event that is made would never be known.
+	twenty := "lift " + strings.Repeat("both emit old ", 20) + "emit old" + v
+	wantBook(t, "very wide", bookOf(t, "type a"+v+strings.Repeat(twenty, 11)), chainFault{Code: impl.ChainWide, Type: 1, Version: 1})
+	wantBook(t, "very wide, and nothing comes of it", bookOf(t, "type a"+v+strings.Repeat(twenty, 10)+"lift drop"+v), chainFault{})
 	// Texts of just ChainMaxText bytes, and one more.
 	for _, bytes := range []int{39998, 39999, 40000} {
 		wantBook(t, fmt.Sprint(bytes, " bytes"), longBook(t, bytes), chainFault{})
@@ -408,9 +410,9 @@ type spoiling struct {
 // spoilings are all sorts of faults, at the first and at the last type and version that can have them.
 func spoilings(t *testing.T) []spoiling {
 	var all []spoiling
-	put := func(pass, kind, code, version int, lift fault, spoil func(book []chainType) []chainType) {
-		wanted := chainFault{Code: code, Type: kind, Version: version, Lift: lift}
-		all = append(all, spoiling{[4]int{pass, kind, code, version}, wanted, spoil})
+	put := func(pass, place, code, version int, lift fault, spoil func(book []chainType) []chainType) {
+		wanted := chainFault{Code: code, Type: place, Version: version, Lift: lift}
+		all = append(all, spoiling{[4]int{pass, place, code, version}, wanted, spoil})
 	}
 	put(1, 0, impl.ChainManyTypes, 0, fault{}, func(book []chainType) []chainType {
 		for i := range 6 {
@@ -418,39 +420,39 @@ func spoilings(t *testing.T) []spoiling {
 		}
 		return book
 	})
-	for kind := range 3 {
+	for place := range 3 {
 		one := func(change func(c *chainType)) func(book []chainType) []chainType {
-			return func(book []chainType) []chainType { change(&book[kind]); return book }
+			return func(book []chainType) []chainType { change(&book[place]); return book }
 		}
 		for _, name := range []string{"", "A", "ninebytes", "a b"} {
-			put(2, kind+1, impl.ChainBadName, 0, fault{}, one(func(c *chainType) { c.Name = name }))
+			put(2, place+1, impl.ChainBadName, 0, fault{}, one(func(c *chainType) { c.Name = name }))
 		}
-		if kind > 0 {
-			put(2, kind+1, impl.ChainBadName, 0, fault{}, func(book []chainType) []chainType { book[kind].Name = book[0].Name; return book })
+		if place > 0 {
+			put(2, place+1, impl.ChainBadName, 0, fault{}, func(book []chainType) []chainType { book[place].Name = book[0].Name; return book })
 		}
-		put(2, kind+1, impl.ChainVersions, 0, fault{}, one(func(c *chainType) { c.Versions = nil }))
-		put(2, kind+1, impl.ChainVersions, 0, fault{}, one(func(c *chainType) {
+		put(2, place+1, impl.ChainVersions, 0, fault{}, one(func(c *chainType) { c.Versions = nil }))
+		put(2, place+1, impl.ChainVersions, 0, fault{}, one(func(c *chainType) {
 			c.Versions = slices.Concat(slices.Repeat(c.Versions[:1], 12), c.Versions)
 		}))
-		last := []int{2, 1, 2}[kind]
+		last := []int{2, 1, 2}[place]
 		for _, version := range []int{0, last} {
-			for _, k := range []kind2{{}, kNum, kList(kForm("")), kFields(40, kNum), {Sort: impl.TreeForm, Names: []string{"a"}}} {
-				put(2, kind+1, impl.ChainBadKind, version+1, fault{}, one(func(c *chainType) { c.Versions[version].Kind = k }))
+			for _, k := range []kind{{}, kNum, kList(kForm("")), kFields(40, kNum), {Sort: impl.TreeForm, Names: []string{"a"}}} {
+				put(2, place+1, impl.ChainBadKind, version+1, fault{}, one(func(c *chainType) { c.Versions[version].Kind = k }))
 			}
 		}
 		for _, n := range []node{nDrop(), {Num: 1}, {Text: "q"}, {Names: []string{""}}, {Kids: []node{{}}}, {Op: -1}} {
-			put(2, kind+1, impl.ChainLast, last+1, fault{}, one(func(c *chainType) { c.Versions[last].Lift = n }))
+			put(2, place+1, impl.ChainLast, last+1, fault{}, one(func(c *chainType) { c.Versions[last].Lift = n }))
 		}
 		for _, version := range []int{0, last - 1} {
 			for _, row := range []struct {
 				n node
 				f fault
 			}{{node{}, fault{Code: 2}}, {nNum(1), fault{Code: 2}}, {readLift(t, "both drop emit x"), fault{Code: 5, At: 3}}, {readLift(t, "emit form end"), fault{Code: 6, At: 1}}, {readLift(t, "take x get z old drop"), fault{Code: 8, At: 1}}, {readLift(t, "send nobody 1 old"), fault{Code: 5}}} {
-				put(3, kind+1, impl.ChainBadLift, version+1, row.f, one(func(c *chainType) { c.Versions[version].Lift = row.n }))
+				put(3, place+1, impl.ChainBadLift, version+1, row.f, one(func(c *chainType) { c.Versions[version].Lift = row.n }))
 			}
 		}
-		if kind != 1 {
-			put(4, kind+1, impl.ChainWide, 1, fault{}, one(func(c *chainType) {
+		if place != 1 {
+			put(4, place+1, impl.ChainWide, 1, fault{}, one(func(c *chainType) {
 				c.Versions[0].Lift = readLift(t, "both emit old emit old")
 				c.Versions[1].Lift = readLift(t, "take l one 1 each x l each y l emit old")
 			}))
