@@ -325,6 +325,16 @@ func TestChainLiftWithoutEnd(t *testing.T) {
 	v := "\nversion {l:[num]}\n"
 	book := bookOf(t, "type a"+v+"lift each x get l old each y get l old emit old"+v+"lift each x get l old emit old"+v+"lift drop"+v)
 	wantLifted(t, book, "a@1{l:"+elements(20)+"}", "")
+	// Fans do not bound how many of these there are: each of them is one of few that are unlike.
+	each := "lift each x get l old each y get l old emit form l get l old x add x y end"
+	w := "\nversion {l:[num],x:num}\n"
+	for _, row := range [][2]string{{"drop", ""}, {"choose less get x old 40 drop fail 8", "stop 5 8 a@11"}, {"choose same get x old 39 take z div 1 0 drop drop", "stop 2 0 a@11"}} {
+		book := bookOf(t, "type a"+w+strings.Repeat(each+w, 10)+"lift "+row[0]+w)
+		e, _ := impl.EventRead("a@1{l:" + elements(20) + ",x:0}")
+		wantLiftedEvent(t, book, e, row[1])
+		e.Version = 10
+		wantLiftedEvent(t, book, e, row[1])
+	}
 	// The empty list and the nil list are the same value.
 	for _, body := range []tree{{Sort: impl.TreeForm}, {Sort: impl.TreeForm, Names: []string{}, Kids: []tree{}}} {
 		book := []chainType{{Name: "a", Versions: []chainVersion{{Kind: kForm(""), Lift: nEmit(nName("old"))}, {Kind: kForm(""), Lift: node{Names: []string{}, Kids: []node{}}}}}}
