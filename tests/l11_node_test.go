@@ -1041,6 +1041,7 @@ func TestLiftFirstFault(t *testing.T) {
 
 // P13: each word of each op is left out, has others ahead and behind, and is made to another one.
 func TestLiftOtherWords(t *testing.T) {
+	t.Parallel()
 	others := append(ownWords(), "old", "x", "1", "-1", "0", "99", "100", "13", "01", `"a"`, `"`, "num", "{a:num}", "[num", "A", "abcdefghi", "\xff", "~", "-")
 	read := 0
 	for op, row := range eachOp() {
@@ -1071,6 +1072,7 @@ func TestLiftOtherWords(t *testing.T) {
 
 // P13: all that lies a byte beside the text of an upcaster.
 func TestLiftBeside(t *testing.T) {
+	t.Parallel()
 	read := 0
 	for _, s := range []string{"drop", "fail 10", "emit old", "send a 12 old", "both drop drop", "choose no drop drop", "take x 1 emit x", "each e old drop", `emit "a b"`, "emit -10", "emit fold a b old 0 a", "emit form a 1 b 2 end", "emit none [num]", `emit join "a""b"`, "emit let x yes x", "emit case x old x 0"} {
 		if !wantOneLift(t, s) {
@@ -1089,6 +1091,7 @@ func TestLiftBeside(t *testing.T) {
 
 // P13: all texts of a few words.
 func TestLiftShortTexts(t *testing.T) {
+	t.Parallel()
 	read := 0
 	var all func(s string, words []string, left int)
 	all = func(s string, words []string, left int) {
@@ -1284,6 +1287,7 @@ func spoilLift(r *rand.Rand, n *node) {
 
 // P12, P13: many upcasters, made by chance, and spoiled.
 func TestLiftMany(t *testing.T) {
+	t.Parallel()
 	r := rand.New(rand.NewSource(11))
 	ok, spoiled, read := 0, 0, 0
 	ops := map[int]int{}

@@ -1468,6 +1468,7 @@ func otherPart(r *rand.Rand, n *node) {
 
 // P21: many upcasters, made by chance, that are fine, and others with a part in which they are not.
 func TestCheckMany(t *testing.T) {
+	t.Parallel()
 	r := rand.New(rand.NewSource(12))
 	sinks, told := sinksOf(t, "@0 {a:num}; paid@1 {}; paid@2 {a:num,b:text}; @0 {}; paid@3 {o:{a:num}}; paid@3 {}")
 	firsts := slices.DeleteFunc(slices.Clone(told), func(s [2]string) bool { return s[1] == "{}" && s[0] != "paid@1" })
@@ -1510,6 +1511,7 @@ func TestCheckMany(t *testing.T) {
 
 // P21: many values, made by chance, of a schema that is wanted.
 func TestCheckManyValues(t *testing.T) {
+	t.Parallel()
 	r := rand.New(rand.NewSource(13))
 	fine := 0
 	for range 12000 {

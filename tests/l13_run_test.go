@@ -875,6 +875,7 @@ func codeOf(n node) int {
 
 // A cost of just LiftMaxCost and one more, a fan of just LiftMaxFan and one more.
 func TestRunCostAndFan(t *testing.T) {
+	t.Parallel()
 	full := form("l", list(repeat(num(1), 20)...))
 	for _, op := range []int{impl.LiftMap, impl.LiftKeep, impl.LiftFold, impl.LiftEach} {
 		for _, cost := range []int{39998, 39999, 40000} {
@@ -952,6 +953,7 @@ func edgy(r *rand.Rand, n *node) {
 
 // P11: upcasters that are accepted make events of the schemas of their sinks, not more than their fan, or stop with a code that is named; and just those that the tests themselves tell. Others too do what is told.
 func TestRunMany(t *testing.T) {
+	t.Parallel()
 	r := rand.New(rand.NewSource(15))
 	sinks, told := sinksOf(t, "@0 {a:num}; paid@1 {}; paid@2 {a:num,b:text}; paid@3 {o:{a:num}}")
 	from := "{a:num,b:text,l:[num],m:?text}"
@@ -1023,6 +1025,7 @@ func chanceBound(t *testing.T, r *rand.Rand) (vars []liftVar, bound bindings, tr
 
 // P14, P19: values have the schema that was reckoned for them, or stop with a code from StopOver to StopBig; a name that is not used changes nothing.
 func TestRunManyValues(t *testing.T) {
+	t.Parallel()
 	r := rand.New(rand.NewSource(16))
 	codes := map[int]int{}
 	for range 8000 {
@@ -1140,6 +1143,7 @@ func wantBothOf(t *testing.T, a, b node, old tree) bool {
 
 // P18: what is done for each element, for a first part and then for the rest.
 func TestRunEachInParts(t *testing.T) {
+	t.Parallel()
 	r := rand.New(rand.NewSource(18))
 	sinks, from := [][2]string{{"@0", "{a:num}"}, {"paid@1", "{}"}}, "{a:num,l:[num]}"
 	bound := bindings{{"old", from}, {"x", "num"}}
@@ -1198,6 +1202,7 @@ func TestRunEachInParts(t *testing.T) {
 
 // Nodes by chance, in which hardly anything fits, and nodes that are spoiled.
 func TestRunAnyNodes(t *testing.T) {
+	t.Parallel()
 	r := rand.New(rand.NewSource(19))
 	old := readTree(t, someOld)
 	codes := map[int]int{}

@@ -339,6 +339,7 @@ func formsOf(r *rand.Rand) (first, second, third kind) {
 
 // P15, P16: many pairs and rows of three schemas, with bodies of the first.
 func TestMakeMany(t *testing.T) {
+	t.Parallel()
 	r := rand.New(rand.NewSource(22))
 	fits, not, same, steps := 0, 0, 0, [3]int{}
 	for range 12000 {
@@ -570,6 +571,7 @@ func TestTryFirst(t *testing.T) {
 
 // P20: the most events, and the largest.
 func TestTryMany(t *testing.T) {
+	t.Parallel()
 	twenty := "[" + strings.Repeat("1,", 19) + "1]"
 	wantTry(t, "each x get l old each y get l old emit old", "{l:[num]}", "{l:[num]}", "{l:"+twenty+"}", strings.Repeat("emit {l:"+twenty+"}\n", 400))
 	big := impl.TreeWrite(partsTree(120))

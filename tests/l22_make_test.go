@@ -402,6 +402,7 @@ func chanceLift(t *testing.T, r *rand.Rand) node {
 
 // P29: many upcasters by chance.
 func TestMadeMany(t *testing.T) {
+	t.Parallel()
 	r := rand.New(rand.NewSource(29))
 	sinks, told := sinksOf(t, chanceSinks)
 	made, not, ops := 0, 0, map[int]int{}

@@ -556,6 +556,7 @@ func spoilCode(r *rand.Rand, good []codeOp, ops []codeOp) []codeOp {
 
 // P25: much code that was made and then spoiled, and code by chance, held against what the tests tell.
 func TestLookMany(t *testing.T) {
+	t.Parallel()
 	r := rand.New(rand.NewSource(25))
 	sinks, told := sinksOf(t, chanceSinks)
 	from := readKind(t, chanceFrom)

@@ -421,6 +421,7 @@ func counted(t *testing.T, rounds int, end string) []codeOp {
 
 // CodeMaxSteps ops and one more, the stop counting as one.
 func TestMachineSteps(t *testing.T) {
+	t.Parallel()
 	old := readTree(t, someOld)
 	// Two ops ahead, ten a round, four to see that it is over: then the ones of the end.
 	const rounds, ahead = 19999, 2 + 10*19999 + 4
@@ -576,6 +577,7 @@ func TestMachineBroken(t *testing.T) {
 
 // P22: upcasters by chance, with bodies by chance: code does just what they mean.
 func TestMachineMany(t *testing.T) {
+	t.Parallel()
 	r := rand.New(rand.NewSource(22))
 	sinks, _ := sinksOf(t, chanceSinks)
 	from := readKind(t, chanceFrom)
@@ -621,6 +623,7 @@ func TestMachineMany(t *testing.T) {
 
 // P24: code that passed the look never breaks; other code does what the tests tell.
 func TestMachineNeverBroken(t *testing.T) {
+	t.Parallel()
 	r := rand.New(rand.NewSource(24))
 	sinks, _ := sinksOf(t, chanceSinks)
 	from := readKind(t, chanceFrom)

@@ -255,6 +255,7 @@ func constant(r *rand.Rand, n *node) {
 
 // P26, P27: upcasters by chance, with bodies by chance.
 func TestTidyMany(t *testing.T) {
+	t.Parallel()
 	r := rand.New(rand.NewSource(27))
 	sinks, _ := sinksOf(t, chanceSinks)
 	from := readKind(t, chanceFrom)

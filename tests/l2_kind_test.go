@@ -358,6 +358,7 @@ func TestKindOneText(t *testing.T) {
 
 // P3: all texts of a few of the words of which schemas are made.
 func TestKindShortTexts(t *testing.T) {
+	t.Parallel()
 	words := []string{"num", "text", "flag", "[", "]", "{", "}", "?", "a", "b", ":", ",", " ", "a:", "b:num"}
 	read := 0
 	var all func(s string, left int)
@@ -549,6 +550,7 @@ func nudge(r *rand.Rand, t tree) tree {
 
 // P3, P4, P5: many schemas and trees, held against what the document says as it is told here.
 func TestKindMany(t *testing.T) {
+	t.Parallel()
 	r := rand.New(rand.NewSource(2))
 	fine, spoilt, of, not := 0, 0, 0, 0
 	for range 8000 {

@@ -320,6 +320,7 @@ func longBook(t *testing.T, bytes int) []chainType {
 
 // P38: the bounds of books, just met and passed by one.
 func TestBookBounds(t *testing.T) {
+	t.Parallel()
 	many := func(types, versions int) []chainType {
 		var book []chainType
 		for i := range types {
@@ -562,6 +563,7 @@ func chanceBook(t *testing.T, r *rand.Rand) []chainType {
 
 // P38: many books by chance, some of them spoiled.
 func TestBookMany(t *testing.T) {
+	t.Parallel()
 	r := rand.New(rand.NewSource(38))
 	codes, wides := map[int]int{}, 0
 	for range 1500 {

@@ -260,6 +260,7 @@ func TestChainLiftUnknown(t *testing.T) {
 
 // P31, P32, P33: many books and events by chance.
 func TestChainLiftMany(t *testing.T) {
+	t.Parallel()
 	r := rand.New(rand.NewSource(31))
 	codes, several, far := map[int]int{}, 0, 0
 	for range 1200 {
@@ -308,6 +309,7 @@ func TestChainLiftMany(t *testing.T) {
 
 // Every function answers at every argument: at bodies, schemas and nodes that hold themselves.
 func TestChainLiftWithoutEnd(t *testing.T) {
+	t.Parallel()
 	trees := make([]tree, 1)
 	trees[0] = tree{Sort: impl.TreeForm, Names: []string{"n"}, Kids: trees}
 	self := nBoth(nDrop(), nDrop())

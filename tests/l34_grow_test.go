@@ -321,6 +321,7 @@ func TestGrowGrown(t *testing.T) {
 
 // P30, P36, P37: books that grow by chance, and events that are lifted by all of their states.
 func TestGrowMany(t *testing.T) {
+	t.Parallel()
 	r := rand.New(rand.NewSource(30))
 	added, refused, stops, fine, others := 0, 0, 0, 0, 0
 	for range 70 {

@@ -514,6 +514,7 @@ func smallKinds() []kind {
 
 // P6, P7, P8: each of some schemas against each other one, by all ways between them.
 func TestWidenEachAgainstEach(t *testing.T) {
+	t.Parallel()
 	kinds := smallKinds()
 	r := rand.New(rand.NewSource(4))
 	trees := make([][]tree, len(kinds))
@@ -708,6 +709,7 @@ func largeTree(r *rand.Rand, k kind, room *int) tree {
 
 // P6, P7, P8: many schemas and trees, held against what the document says as it is told here.
 func TestWidenMany(t *testing.T) {
+	t.Parallel()
 	r := rand.New(rand.NewSource(5))
 	steps, joins, least, tooLarge := [3]int{}, 0, 0, 0
 	for range 6000 {

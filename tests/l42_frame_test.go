@@ -170,7 +170,7 @@ func TestFramesEnd(t *testing.T) {
 	wantFrames(t, a+long[:2004], one, len(a))
 }
 
-// Records one behind the other, cut off at each byte: just those are read that are whole.
+// P46: records one behind the other, cut off at each byte: just those are read that are whole.
 func TestFramesCut(t *testing.T) {
 	for _, list := range [][]logRecord{
 		{rec(1, "ab"), rec(2, ""), rec(3, "cde"), rec(999999, "f")},
@@ -201,6 +201,7 @@ func chanceRecord(r *rand.Rand) logRecord {
 	return rec([]int{1, 2, 255, 256, 65535, 65536, 999999, 1 + r.Intn(999999)}[r.Intn(8)], string(data))
 }
 
+// P46: many records by chance, and bytes of which some are others.
 func TestFramesMany(t *testing.T) {
 	r := rand.New(rand.NewSource(42))
 	for range 3000 {
@@ -284,7 +285,7 @@ func toldPlanRead(text string) (logPlan, bool) {
 	return p, true
 }
 
-// wantPlan: a plan that is ok has this text, which is read back as it; no shorter beginning of it is read.
+// wantPlan is P47: a plan that is ok has this text, which is read back as it; no shorter beginning of it is read.
 func wantPlan(t *testing.T, p logPlan, text string) {
 	t.Helper()
 	if !impl.LogPlanOk(p) || !toldPlanOk(p) {
@@ -336,6 +337,7 @@ func wantPlanUnread(t *testing.T, texts ...string) {
 	}
 }
 
+// P47: plans whose texts are known.
 func TestPlanOrdinary(t *testing.T) {
 	wantPlan(t, plan(1, 1), "open 1 1\nend\n")
 	wantPlan(t, plan(2, 4, part(1, 1, 4, 120)), "seal 1 1 4 120\nopen 2 4\nend\n")
@@ -468,6 +470,7 @@ func chancePlan(r *rand.Rand) logPlan {
 	return p
 }
 
+// P47: many plans by chance, and such as are wrong in one place.
 func TestPlanMany(t *testing.T) {
 	r := rand.New(rand.NewSource(421))
 	for i := range 2000 {

@@ -101,7 +101,7 @@ func toldOpen(d disk) logState {
 	return s
 }
 
-// wantOpened: a disk's log says just this; its positions rise, and stand below Next, and its plan is ok.
+// wantOpened: a disk's log says just this; P48 holds: its positions rise, and stand below Next, and its plan is ok.
 func wantOpened(t *testing.T, what string, d disk, wanted logState) {
 	t.Helper()
 	got := impl.LogOpen(d)
@@ -134,6 +134,7 @@ func wantOpenCode(t *testing.T, what string, d disk, code int) {
 	wantOpened(t, what, d, logState{Code: code})
 }
 
+// P48: disks with a plan and its segments, whose logs are known.
 func TestOpenOrdinary(t *testing.T) {
 	open := plan(1, 1)
 	wantOpened(t, "no records", sureDisk("m1", "open 1 1\nend\n", "s1", ""), logState{Num: 1, Plan: open, Next: 1})
@@ -418,6 +419,7 @@ func chanceLog(r *rand.Rand) disk {
 	return d
 }
 
+// P48: many disks by chance, some of them wrong in one place.
 func TestOpenMany(t *testing.T) {
 	r := rand.New(rand.NewSource(43))
 	codes := map[int]int{}

@@ -183,7 +183,7 @@ func wantAct(t *testing.T, d disk, a logAct) (disk, int, int) {
 	return next, pos, code
 }
 
-// wantJustTheAct: an act that is refused changes nothing; an append adds just its record, the others leave the records as they are.
+// wantJustTheAct is P42: an act that is refused changes nothing; an append adds just its record, the others leave the records as they are.
 func wantJustTheAct(t *testing.T, d disk, a logAct, next disk, pos, code int) {
 	t.Helper()
 	if !impl.DiskOk(d) {
@@ -500,8 +500,9 @@ func TestActCodes(t *testing.T) {
 	}
 }
 
-// Power lost behind each number of writes, with moves and Keep of each sort: what is left can be mended, and nothing that was sure is lost.
+// P39, P40: power lost behind each number of writes, with moves and Keep of each sort: what is left can be mended, and nothing that was sure is lost.
 func TestActCuts(t *testing.T) {
+	t.Parallel()
 	base := []logAct{mendAct, appendAct("ab"), syncAct, appendAct("c"), appendAct("")}
 	starts := map[string]disk{"nothing": {}}
 	starts["a log"], _ = impl.LogPlay(base)
@@ -543,7 +544,7 @@ func TestActCuts(t *testing.T) {
 	}
 }
 
-// wantWhole: a disk's log has just the first ones of these records, at least so many; it can be mended, and goes on. There may be none, if none was begun.
+// wantWhole is P39 and P40: a disk's log has just the first ones of these records, at least so many; it can be mended, and goes on. There may be none, if none was begun.
 func wantWhole(t *testing.T, what string, d disk, noneYet bool, most []logRecord, least int) int {
 	t.Helper()
 	s := impl.LogOpen(d)
@@ -554,7 +555,7 @@ func wantWhole(t *testing.T, what string, d disk, noneYet bool, most []logRecord
 	return len(s.Records)
 }
 
-// wantMended: a mend loses no record and leaves nothing torn, unless it is full; one more changes nothing; what is appended then has the next position, and, behind a sync, outlives any loss of power.
+// wantMended is P40: a mend loses no record and leaves nothing torn, unless it is full; one more changes nothing; what is appended then has the next position, and, behind a sync, outlives any loss of power.
 func wantMended(t *testing.T, what string, d disk) {
 	t.Helper()
 	before := impl.LogOpen(d)
@@ -603,8 +604,9 @@ func chanceAct(r *rand.Rand, cuts bool) logAct {
 	return a
 }
 
-// Many acts, with losses of power anywhere: records are never lost that were synced, and none is there in part.
+// P39, P40, P42: many acts, with losses of power anywhere: records are never lost that were synced, and none is there in part.
 func TestActManyCuts(t *testing.T) {
+	t.Parallel()
 	r := rand.New(rand.NewSource(44))
 	cuts, tornOnes, full := 0, 0, 0
 	for i := range 60 {
@@ -659,7 +661,7 @@ func TestActManyCuts(t *testing.T) {
 	}
 }
 
-// Rolls, syncs and mends never change what was appended.
+// P41: rolls, syncs and mends never change what was appended.
 func TestActByAnyWay(t *testing.T) {
 	r := rand.New(rand.NewSource(441))
 	compared := 0
@@ -692,7 +694,7 @@ func TestActByAnyWay(t *testing.T) {
 	}
 }
 
-// Any disk at all, with any act: just what the tests themselves tell.
+// P42: any disk at all, with any act: just what the tests themselves tell.
 func TestActManyDisks(t *testing.T) {
 	r := rand.New(rand.NewSource(442))
 	codes := map[int]int{}

@@ -538,6 +538,7 @@ func TestEventShortRows(t *testing.T) {
 
 // P10: all texts of a few of the words of which events are made.
 func TestEventShortTexts(t *testing.T) {
+	t.Parallel()
 	words := []string{"a", "9", "@", "0", "1", "2", "13", "{", "}", "n:", "1", "~", "-", " ", ",", "@1{", "yes", "A"}
 	read := map[string]int{}
 	var all func(s string, left int)

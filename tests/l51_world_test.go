@@ -156,7 +156,7 @@ func wantNoWorld(t *testing.T, what string, w crewWorld) {
 	wantWorld(t, what, w, false, 0)
 }
 
-// At the beginning nothing has ended, the world is ok, and what is left is known.
+// P56: at the beginning nothing has ended, the world is ok, and what is left is known.
 func TestCrewStart(t *testing.T) {
 	for jobs := 0; jobs <= impl.CrewMaxJobs; jobs++ {
 		for workers := 1; workers <= impl.CrewMaxWorkers; workers++ {
@@ -624,6 +624,7 @@ func spoilWorld(r *rand.Rand, w *crewWorld) {
 	}
 }
 
+// Many worlds by chance, some of them wrong in one place.
 func TestCrewWorldsMany(t *testing.T) {
 	r := rand.New(rand.NewSource(51))
 	counts := map[bool]int{}

@@ -140,7 +140,7 @@ func toldMove(w crewWorld, m crewMove) crewWorld {
 	return w
 }
 
-// wantMoves: just the moves of the table are ready, each leaves just the world that the table tells, an ok one in which less is left; no other move is done.
+// wantMoves is P51 and P52: just the moves of the table are ready, each leaves just the world that the table tells, an ok one in which less is left; no other move is done.
 func wantMoves(t *testing.T, what string, w crewWorld) []crewMove {
 	t.Helper()
 	moves := impl.CrewMoves(w)
@@ -174,7 +174,7 @@ func wantMoves(t *testing.T, what string, w crewWorld) []crewMove {
 	return told
 }
 
-// wantMoved: a move changes only what it must.
+// wantMoved is P52: a move changes only what it must.
 func wantMoved(t *testing.T, what string, w crewWorld, m crewMove, next crewWorld) {
 	t.Helper()
 	if told := toldMove(w, m); !sameWorld(next, told) {
@@ -379,8 +379,9 @@ func explored(t *testing.T, jobs, workers, window, most int) int {
 	return len(seen)
 }
 
-// In all worlds that can come of small beginnings somebody can go on, until all have ended.
+// P51, P54: in all worlds that can come of small beginnings somebody can go on, until all have ended.
 func TestMovesNeverStuck(t *testing.T) {
+	t.Parallel()
 	for _, sizes := range [][3]int{{0, 1, 1}, {0, 2, 2}, {1, 1, 1}, {1, 2, 1}, {2, 1, 1}, {2, 1, 2}, {3, 1, 3}, {2, 2, 2}} {
 		if n := explored(t, sizes[0], sizes[1], sizes[2], 3000); n < 10 {
 			t.Errorf("%v: %d worlds", sizes, n)
@@ -388,8 +389,9 @@ func TestMovesNeverStuck(t *testing.T) {
 	}
 }
 
-// Worlds written by chance that are ok, and others.
+// P51, P52: worlds written by chance that are ok, and others.
 func TestMovesMany(t *testing.T) {
+	t.Parallel()
 	r := rand.New(rand.NewSource(52))
 	counts := map[bool]int{}
 	for range 8000 {
@@ -406,7 +408,7 @@ func TestMovesMany(t *testing.T) {
 	}
 }
 
-// Every world that is ok comes to its end, whatever is picked, within as many steps as are left; if the user did not stop, all jobs have come; behind a stop nothing more comes.
+// P53, P54: every world that is ok comes to its end, whatever is picked, within as many steps as are left; if the user did not stop, all jobs have come; behind a stop nothing more comes.
 func TestMovesEnd(t *testing.T) {
 	r := rand.New(rand.NewSource(521))
 	stops := 0
@@ -462,7 +464,7 @@ func TestMovesEnd(t *testing.T) {
 	}
 }
 
-// The user stops at each step: nothing more comes, and all others end.
+// P53: the user stops at each step: nothing more comes, and all others end.
 func TestMovesCancel(t *testing.T) {
 	for cancel := range 60 {
 		for _, last := range []bool{false, true} {

@@ -78,7 +78,7 @@ func toldPlay(jobs []crewJob, workers, window int, picks []int, cancel int) crew
 	return told
 }
 
-// wantPlayed: jobs by a crew whose moves are picked tell what the tests themselves tell; if the user does not stop, just what they tell one behind the other.
+// wantPlayed is P49 and P50: jobs by a crew whose moves are picked tell what the tests themselves tell; if the user does not stop, just what they tell one behind the other.
 func wantPlayed(t *testing.T, jobs []crewJob, workers, window int, picks []int, cancel int) crewTold {
 	t.Helper()
 	got := impl.CrewPlay(jobs, workers, window, picks, cancel)
@@ -107,7 +107,7 @@ func wantPlayed(t *testing.T, jobs []crewJob, workers, window int, picks []int, 
 	return got
 }
 
-// wantCrewRun: jobs by goroutines tell what they tell one behind the other.
+// wantCrewRun is P55: jobs by goroutines tell what they tell one behind the other.
 func wantCrewRun(t *testing.T, jobs []crewJob, workers, window int) {
 	t.Helper()
 	wanted := toldJobs(jobs, len(jobs))
@@ -123,6 +123,7 @@ func someJobs() []crewJob {
 	return []crewJob{goodJob(1, 2), badJob(7, 9), goodJob(3), goodJob(), badJob(1), goodJob(4, 5, 6), goodJob(-1, math.MaxInt, math.MinInt), badJob(math.MaxInt, 1, 2), goodJob(8)}
 }
 
+// P49, P55: jobs by each number of workers and each window.
 func TestJobsOrdinary(t *testing.T) {
 	jobs := someJobs()
 	wanted := crewTold{Ok: true, Items: []int{1, 2, 3, 4, 5, 6, -1, math.MaxInt, math.MinInt, 8}, Dead: []impl.CrewDead{{At: 1, Bad: 7}, {At: 4, Bad: 1}, {At: 7, Bad: math.MaxInt}}, Jobs: 9}
@@ -231,7 +232,7 @@ func TestJobsPicks(t *testing.T) {
 	}
 }
 
-// The user stops at each step: what came is a beginning.
+// P50: the user stops at each step: what came is a beginning.
 func TestJobsCancel(t *testing.T) {
 	jobs := []crewJob{goodJob(1, 2), badJob(7, 9), goodJob(3), goodJob(4)}
 	came := map[int]bool{}
@@ -280,6 +281,7 @@ func chanceJobs(r *rand.Rand) (jobs []crewJob) {
 	return jobs
 }
 
+// P49, P50, P55: many jobs, crews and picks by chance.
 func TestJobsMany(t *testing.T) {
 	r := rand.New(rand.NewSource(53))
 	for range 400 {
@@ -295,7 +297,7 @@ func TestJobsMany(t *testing.T) {
 	}
 }
 
-// Goroutines always tell the same, and none is left when they have told.
+// P55: goroutines always tell the same, and none is left when they have told.
 func TestJobsRunAgain(t *testing.T) {
 	before := runtime.NumGoroutine()
 	r := rand.New(rand.NewSource(531))

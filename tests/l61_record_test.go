@@ -69,7 +69,7 @@ func okRecord(r record) bool {
 	return len(recordBytes(r)) <= 2000
 }
 
-// wantRecord: a record is ok, has these bytes, and is read back from them at its position.
+// wantRecord is P57: a record is ok, has these bytes, and is read back from them at its position.
 func wantRecord(t *testing.T, r record, packed string) {
 	t.Helper()
 	if got := impl.RecPack(r); !impl.RecOk(r) || got != packed || !okRecord(r) {
@@ -95,7 +95,7 @@ func wantNoRecord(t *testing.T, what string, r record) {
 	}
 }
 
-// wantRecordRow: what is read is a record that is ok, at the position, and these are its bytes; what is not read is nothing. It says whether it is read.
+// wantRecordRow is P58: what is read is a record that is ok, at the position, and these are its bytes; what is not read is nothing. It says whether it is read.
 func wantRecordRow(t *testing.T, pos int, row string) bool {
 	t.Helper()
 	r, ok := impl.RecUnpack(pos, row)
@@ -115,6 +115,7 @@ func wantNoRow(t *testing.T, what string, row string) {
 	}
 }
 
+// P57: records whose bytes are known.
 func TestRecordOrdinary(t *testing.T) {
 	wantRecord(t, recordAt(t, 7, "ab", "x@1{}"), "\x02ab\x01\x00\x05\x01x\x01\x05\x00")
 	wantRecord(t, recordAt(t, 1, "k", "order@2{n:7}"), "\x01k\x01\x00\x0e\x05order\x02\x05\x01\x01n\x01\x00\x07")
@@ -261,7 +262,7 @@ func TestRecordNotUnpacked(t *testing.T) {
 	}
 }
 
-// Each byte of a record's bytes missing, another one, or one more.
+// P58: each byte of a record's bytes missing, another one, or one more.
 func TestRecordBeside(t *testing.T) {
 	read := 0
 	for _, r := range []record{recordAt(t, 7, "ab", "x@1{}"), recordAt(t, 7, "k", "x@1{n:300}", "y@2{a:[yes,~]}", `z@3{t:"u"}`), recordAt(t, 7, "a", "a@1{}", "a@1{}")} {
@@ -284,6 +285,7 @@ func TestRecordBeside(t *testing.T) {
 	}
 }
 
+// P57, P58: many records by chance; no two have the same bytes.
 func TestRecordMany(t *testing.T) {
 	r := rand.New(rand.NewSource(61))
 	fine, not := 0, 0

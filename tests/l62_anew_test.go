@@ -60,7 +60,7 @@ func wantRecLift(t *testing.T, book []chainType, r record) (chainDone, int) {
 	return d, code
 }
 
-// wantAnewSame: of a record all parts are lifted or none, and writing it anew does not change what it comes to.
+// wantAnewSame is P59 and P60: of a record all parts are lifted or none, and writing it anew does not change what it comes to.
 func wantAnewSame(t *testing.T, book []chainType, r record, d chainDone, anew record, code int) {
 	t.Helper()
 	if d.Code != 0 && len(d.Outs) > 0 {
@@ -127,6 +127,7 @@ type b
 version {}
 `
 
+// P59, P60: records whose events, lifted and written anew, are known.
 func TestAnewOrdinary(t *testing.T) {
 	book := bookOf(t, anewLines)
 	wantLiftedRecord(t, book, "a@2{n:4} b@1{}", impl.AnewMade, "a@1{n:3}")
@@ -144,7 +145,7 @@ func TestAnewOrdinary(t *testing.T) {
 	wantLiftedRecord(t, example, "", impl.AnewDropped, `order@1{items:[],who:"ann"}`)
 }
 
-// The first event that stops is told, whatever stands behind it.
+// P59: the first event that stops is told, whatever stands behind it.
 func TestAnewStops(t *testing.T) {
 	var lines string
 	stops := []struct{ name, action, wanted string }{
@@ -263,7 +264,9 @@ func chanceRecordOf(t *testing.T, r *rand.Rand, book []chainType, pos int) recor
 	return one
 }
 
+// P59, P60: many books and records by chance.
 func TestAnewMany(t *testing.T) {
+	t.Parallel()
 	r := rand.New(rand.NewSource(62))
 	codes, anews := map[int]int{}, map[int]int{}
 	for range 250 {

@@ -114,7 +114,7 @@ func toldBoard(d deadDone) string {
 	return board
 }
 
-// wantReplay: a replay comes to just what the tests themselves tell, all at once and in two pieces; its board has a line for each.
+// wantReplay: a replay comes to just what the tests themselves tell; P66: its board has a line for each.
 func wantReplay(t *testing.T, book []chainType, list []record, hold int, keys []deadHold) deadDone {
 	t.Helper()
 	got := impl.DeadReplay(book, list, hold, keys)
@@ -137,7 +137,7 @@ func wantReplay(t *testing.T, book []chainType, list []record, hold int, keys []
 	return got
 }
 
-// wantJustOne: every record is given, or dead, or gave nothing; behind a dead record of its key none is given.
+// wantJustOne is P62 and P63: every record is given, or dead, or gave nothing; behind a dead record of its key none is given.
 func wantJustOne(t *testing.T, book []chainType, list []record, hold int, keys []deadHold, got deadDone) {
 	t.Helper()
 	given, dead := slices.Clone(got.Given), slices.Clone(got.Dead)
@@ -183,7 +183,7 @@ func wantJustOne(t *testing.T, book []chainType, list []record, hold int, keys [
 	}
 }
 
-// wantPieces: cut anywhere, the keys that are held being handed on, records are replayed to the same.
+// wantPieces is P64: cut anywhere, the keys that are held being handed on, records are replayed to the same.
 func wantPieces(t *testing.T, book []chainType, list []record, hold int, keys []deadHold) {
 	t.Helper()
 	whole := impl.DeadReplay(book, list, hold, keys)
@@ -254,6 +254,7 @@ func TestReplayExample(t *testing.T) {
 	}
 }
 
+// P62, P63, P64, P66: records of all sorts, whose replay is known.
 func TestReplayOrdinary(t *testing.T) {
 	book := bookOf(t, dropLines)
 	list := recordsOf(t, `
@@ -493,7 +494,7 @@ func TestReplayAgain(t *testing.T) {
 	wantBoard(t, wantAgain(t, book, list, impl.HoldKey, parked.Dead), "3 y a@2{n:3}\n")
 }
 
-// wantCompleted: if a mended book lifts each record that is not dead just as the book did, what was given and what is given of the dead again is what a replay by the mended book gives. It says whether that was so.
+// wantCompleted is P65: if a mended book lifts each record that is not dead just as the book did, what was given and what is given of the dead again is what a replay by the mended book gives. It says whether that was so.
 func wantCompleted(t *testing.T, book, mended []chainType, list []record, hold int) bool {
 	t.Helper()
 	first := impl.DeadReplay(book, list, hold, nil)
@@ -527,8 +528,9 @@ func wantCompleted(t *testing.T, book, mended []chainType, list []record, hold i
 	return true
 }
 
-// Books by chance that are broken in one place, and mended.
+// P65: books by chance that are broken in one place, and mended.
 func TestReplayAgainMany(t *testing.T) {
+	t.Parallel()
 	r := rand.New(rand.NewSource(631))
 	completed, dead, given := 0, 0, 0
 	tests := []string{"less get n old 3", "same get n old 5", "less 7 get n old", "same get n old get n old", "less get n old 0"}
@@ -598,8 +600,9 @@ func grownBooks(t *testing.T, r *rand.Rand, adds int) [][]chainType {
 	return states
 }
 
-// It does not matter whether records were written anew before they are replayed: by an older state of the book, by the book itself, or by both.
+// P61, P64: it does not matter whether records were written anew before they are replayed: by an older state of the book, by the book itself, or by both.
 func TestReplayAnew(t *testing.T) {
+	t.Parallel()
 	r := rand.New(rand.NewSource(63))
 	anews, dead, given, gone := 0, 0, 0, 0
 	for i := range 40 {
@@ -666,6 +669,7 @@ func goodBoard(t *testing.T) deadDone {
 	}
 }
 
+// P66: boards with each sort of line, and each reason for which one is empty.
 func TestReplayBoard(t *testing.T) {
 	const lines = "5 x a@2{n:4} b@1{}\n3 y a@2{n:3}\n9 zz b@12{}\n2 x dead 2 0 a@1\n4 x dead 10 behind 2\n1 q dead 5 99 abcdefgh@12\n7 w dead 6 0 @0\nheld q behind 1\nheld x behind 2\nheld zz behind 999999\n"
 	wantBoard(t, goodBoard(t), lines)
@@ -743,6 +747,7 @@ func TestReplayBoard(t *testing.T) {
 	wantBoard(t, most, "1 k"+strings.Repeat(" b@1{}", 16000)+"\n")
 }
 
+// P62, P63: many books and records by chance.
 func TestReplayMany(t *testing.T) {
 	r := rand.New(rand.NewSource(632))
 	oks, parked := 0, 0
