@@ -297,25 +297,25 @@ func TestJobsMany(t *testing.T) {
 	}
 }
 
-// P55: goroutines always tell the same, and none is left when they have told.
-func TestJobsRunAgain(t *testing.T) {
-	before := runtime.NumGoroutine()
-	r := rand.New(rand.NewSource(531))
-	for i := range 2000 {
-		wantCrewRun(t, chanceJobs(r), 1+i%8, 1+i%16)
-	}
+// sideBySide does something so many times in each of several goroutines.
+func sideBySide(hands, times int, do func(i int)) {
 	done := make(chan struct{})
-	for range 8 {
+	for range hands {
 		go func() {
-			for i := range 100 {
-				wantCrewRun(t, someJobs(), 1+i%8, 1+i%16)
+			for i := range times {
+				do(i)
 			}
 			done <- struct{}{}
 		}()
 	}
-	for range 8 {
+	for range hands {
 		<-done
 	}
+}
+
+// wantNoneLeft: soon there are no more goroutines than there were before.
+func wantNoneLeft(t *testing.T, before int) {
+	t.Helper()
 	for range 500 {
 		if runtime.NumGoroutine() <= before {
 			return
@@ -323,6 +323,17 @@ func TestJobsRunAgain(t *testing.T) {
 		time.Sleep(10 * time.Millisecond)
 	}
 	t.Errorf("%d goroutines, %d before", runtime.NumGoroutine(), before)
+}
+
+// P55: goroutines always tell the same, and none is left when they have told.
+func TestJobsRunAgain(t *testing.T) {
+	before := runtime.NumGoroutine()
+	r := rand.New(rand.NewSource(531))
+	for i := range 2000 {
+		wantCrewRun(t, chanceJobs(r), 1+i%8, 1+i%16)
+	}
+	sideBySide(8, 100, func(i int) { wantCrewRun(t, someJobs(), 1+i%8, 1+i%16) })
+	wantNoneLeft(t, before)
 }
 
 // Nothing is written into an argument or behind its end, and every answer is new memory.

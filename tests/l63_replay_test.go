@@ -8,7 +8,6 @@ import (
 	"slices"
 	"strings"
 	"testing"
-	"time"
 
 	"loop.example/teagle/impl"
 )
@@ -795,27 +794,12 @@ func TestReplaySame(t *testing.T) {
 	}
 	wanted := wantReplay(t, book, list, impl.HoldKey, nil)
 	alone := wantReplay(t, book, list, impl.HoldAlone, nil)
-	done := make(chan struct{})
-	for range 6 {
-		go func() {
-			for range 10 {
-				if !sameDead(impl.DeadReplay(book, list, impl.HoldKey, nil), wanted) || !sameDead(impl.DeadReplay(book, list, impl.HoldAlone, nil), alone) {
-					t.Error("not always the same")
-				}
-			}
-			done <- struct{}{}
-		}()
-	}
-	for range 6 {
-		<-done
-	}
-	for range 500 {
-		if runtime.NumGoroutine() <= before {
-			return
+	sideBySide(6, 10, func(int) {
+		if !sameDead(impl.DeadReplay(book, list, impl.HoldKey, nil), wanted) || !sameDead(impl.DeadReplay(book, list, impl.HoldAlone, nil), alone) {
+			t.Error("not always the same")
 		}
-		time.Sleep(10 * time.Millisecond)
-	}
-	t.Errorf("%d goroutines, %d before", runtime.NumGoroutine(), before)
+	})
+	wantNoneLeft(t, before)
 }
 
 // Every function answers at every argument.

@@ -702,15 +702,10 @@ func TestFoldPlanMany(t *testing.T) {
 // Every function answers at every argument: also at what holds itself, or is far too wide.
 func TestFoldPlanWithoutEnd(t *testing.T) {
 	book, good := spoiledFold(t)
-	kinds := make([]kind, 1)
-	kinds[0] = kind{Sort: impl.TreeForm, Names: []string{"a"}, Kids: kinds}
-	nodes := make([]node, 1)
-	nodes[0] = node{Op: impl.LiftSome, Kids: nodes}
-	trees := make([]tree, 1)
-	trees[0] = tree{Sort: impl.TreeForm, Names: []string{"a"}, Kids: trees}
+	k, n, x := endless()
 	for i, change := range []func(p *foldPlan){
-		func(p *foldPlan) { p.States[0].Kind = kinds[0] }, func(p *foldPlan) { p.States[3].Lift = nodes[0] }, func(p *foldPlan) { p.States[0].Save = nodes[0] },
-		func(p *foldPlan) { p.States[1].Lift = nodes[0] }, func(p *foldPlan) { p.Start = trees[0] }, func(p *foldPlan) { p.Steps[3].Do = nodes[0] },
+		func(p *foldPlan) { p.States[0].Kind = k }, func(p *foldPlan) { p.States[3].Lift = n }, func(p *foldPlan) { p.States[0].Save = n },
+		func(p *foldPlan) { p.States[1].Lift = n }, func(p *foldPlan) { p.Start = x }, func(p *foldPlan) { p.Steps[3].Do = n },
 		func(p *foldPlan) { p.States = make([]foldState, 3000000) }, func(p *foldPlan) { p.Steps = make([]foldStep, 3000000) }, func(p *foldPlan) { p.Name = strings.Repeat("a", 30000000) },
 	} {
 		p := copyFold(good)

@@ -317,13 +317,12 @@ func TestFoldSumWithoutEnd(t *testing.T) {
 	if s, ok := impl.FoldAll(book, p, list); !ok || s.State.Kids[0].Num != wanted || s.At != 20 {
 		t.Errorf("%v %s, wanted %d", ok, sumText(s), wanted)
 	}
-	trees := make([]tree, 1)
-	trees[0] = tree{Sort: impl.TreeForm, Names: []string{"n"}, Kids: trees}
+	_, _, x := endless()
 	fine := recordAt(t, 5, "x", "a@2{n:1}")
 	for what, got := range map[string]func() (foldSum, bool){
-		"a state that holds itself": func() (foldSum, bool) { return impl.FoldOn(book, p, foldSum{State: trees[0]}, fine) },
+		"a state that holds itself": func() (foldSum, bool) { return impl.FoldOn(book, p, foldSum{State: x}, fine) },
 		"an event that holds itself": func() (foldSum, bool) {
-			return impl.FoldOn(book, p, foldSum{State: p.Start}, record{Pos: 5, Key: "x", Events: []event{ev("a", 2, trees[0])}})
+			return impl.FoldOn(book, p, foldSum{State: p.Start}, record{Pos: 5, Key: "x", Events: []event{ev("a", 2, x)}})
 		},
 		"very many events": func() (foldSum, bool) {
 			return impl.FoldOn(book, p, foldSum{State: p.Start}, record{Pos: 5, Key: "x", Events: make([]event, 3000000)})

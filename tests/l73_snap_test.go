@@ -369,12 +369,11 @@ func TestFoldSnapMany(t *testing.T) {
 func TestFoldSnapWithoutEnd(t *testing.T) {
 	book := bookOf(t, totalBook)
 	p := foldOf(t, book, totalLines)
-	trees := make([]tree, 1)
-	trees[0] = tree{Sort: impl.TreeForm, Names: []string{"n"}, Kids: trees}
-	if x, ok := impl.FoldSave(book, p, foldSum{State: trees[0]}, 2); ok || !sameSnap(x, foldSnap{}) {
+	_, _, x := endless()
+	if x, ok := impl.FoldSave(book, p, foldSum{State: x}, 2); ok || !sameSnap(x, foldSnap{}) {
 		t.Error("saved")
 	}
-	for _, x := range []foldSnap{{Plan: "total", Version: 2, Book: impl.ChainWrite(book), Body: trees[0]}, {Plan: strings.Repeat("total", 6000000), Version: 2, Book: impl.ChainWrite(book), Body: p.Start}, {Plan: "total", Version: 2, Book: strings.Repeat(impl.ChainWrite(book), 300000), Body: p.Start}} {
+	for _, x := range []foldSnap{{Plan: "total", Version: 2, Book: impl.ChainWrite(book), Body: x}, {Plan: strings.Repeat("total", 6000000), Version: 2, Book: impl.ChainWrite(book), Body: p.Start}, {Plan: "total", Version: 2, Book: strings.Repeat(impl.ChainWrite(book), 300000), Body: p.Start}} {
 		if s, ok := impl.FoldLoad(book, p, x); ok || !sameSum(s, foldSum{}) {
 			t.Error("loaded")
 		}

@@ -7,7 +7,6 @@ import (
 	"runtime"
 	"slices"
 	"testing"
-	"time"
 
 	"loop.example/teagle/impl"
 )
@@ -258,25 +257,8 @@ func TestPipeRunAgain(t *testing.T) {
 		impl.PipeRun(book, list, i%2, 9, 1)
 		impl.PipeRun(book, append(list, record{}), i%2, 1, 1)
 	}
-	done := make(chan struct{})
-	for range 8 {
-		go func() {
-			for i := range 60 {
-				wantPipeRun(t, book, list, i%2, 1+i%8, 1+i%16)
-			}
-			done <- struct{}{}
-		}()
-	}
-	for range 8 {
-		<-done
-	}
-	for range 500 {
-		if runtime.NumGoroutine() <= before {
-			return
-		}
-		time.Sleep(10 * time.Millisecond)
-	}
-	t.Errorf("%d goroutines, %d before", runtime.NumGoroutine(), before)
+	sideBySide(8, 60, func(i int) { wantPipeRun(t, book, list, i%2, 1+i%8, 1+i%16) })
+	wantNoneLeft(t, before)
 }
 
 // Nothing is written into an argument or behind its end, and every answer is new memory.

@@ -540,6 +540,7 @@ func TestTeaBroken(t *testing.T) {
 		"five snaps": func(w *teaWorld) { w.Snaps = slices.Repeat(w.Snaps[:1], 5) }, "two snaps of one": func(w *teaWorld) { w.Snaps[1].Plan = "total" }, "a snap of no fold": func(w *teaWorld) { w.Snaps[1].Plan = "q" }, "a snap without a plan": func(w *teaWorld) { w.Snaps[0].Plan = "" }, "snaps without folds": func(w *teaWorld) { w.Folds = nil },
 		"version 0": func(w *teaWorld) { w.Snaps[1].Version = 0 }, "version 5": func(w *teaWorld) { w.Snaps[0].Version = 5 }, "version -1": func(w *teaWorld) { w.Snaps[0].Version = -1 }, "at -1": func(w *teaWorld) { w.Snaps[1].At = -1 }, "at 1000000": func(w *teaWorld) { w.Snaps[0].At = 1000000 }, "missed -1": func(w *teaWorld) { w.Snaps[0].Missed = -1 }, "missed 1000001": func(w *teaWorld) { w.Snaps[1].Missed = 1000001 },
 		"no body": func(w *teaWorld) { w.Snaps[1].Body = tree{} }, "a body that is not ok": func(w *teaWorld) { w.Snaps[0].Body = form("n", num(1000000000)) },
+		"no name, no snaps": func(w *teaWorld) { w.Folds[0].Name, w.Snaps = "", nil }, "a wrong name, no snaps": func(w *teaWorld) { w.Folds[1].Name, w.Snaps = "X", nil }, "a long name, no snaps": func(w *teaWorld) { w.Folds[1].Name, w.Snaps = "ninebytes", nil },
 		"very many folds": func(w *teaWorld) { w.Folds = make([]foldPlan, 1000000) }, "very many snaps": func(w *teaWorld) { w.Snaps = make([]foldSnap, 1000000) },
 	} {
 		all(what, false, change)
@@ -666,19 +667,14 @@ func TestTeaMany(t *testing.T) {
 
 // Every function answers at every argument: also at folds that hold themselves, or are far too wide.
 func TestTeaWithoutEnd(t *testing.T) {
-	kinds := make([]kind, 1)
-	kinds[0] = kind{Sort: impl.TreeForm, Names: []string{"a"}, Kids: kinds}
-	nodes := make([]node, 1)
-	nodes[0] = node{Op: impl.LiftSome, Kids: nodes}
-	trees := make([]tree, 1)
-	trees[0] = tree{Sort: impl.TreeForm, Names: []string{"a"}, Kids: trees}
+	k, n, x := endless()
 	wide := nNum(1)
 	for range 40 {
 		wide = nOp(impl.LiftAdd, "", wide, wide)
 	}
 	good := wantRow(t, teaRow{tMend, 0, 0}, teaRow{tVersion(t, "a", "{n:num}", ""), 0, 0}, teaRow{tAppend(t, "x", "a@1{n:3}"), 1, 0})
 	for what, p := range map[string]foldPlan{
-		"a schema": {States: []foldState{{Kind: kinds[0]}}}, "a save": {States: []foldState{{Save: nodes[0]}}}, "a lift": {States: []foldState{{Lift: nodes[0]}}}, "a start": {Start: trees[0]}, "a step": {Steps: []foldStep{{Do: nodes[0]}}}, "a wide step": {Steps: []foldStep{{Do: wide}}}, "very many steps": {Steps: make([]foldStep, 300000)}, "very many states": {States: make([]foldState, 300000)},
+		"a schema": {States: []foldState{{Kind: k}}}, "a save": {States: []foldState{{Save: n}}}, "a lift": {States: []foldState{{Lift: n}}}, "a start": {Start: x}, "a step": {Steps: []foldStep{{Do: n}}}, "a wide step": {Steps: []foldStep{{Do: wide}}}, "very many steps": {Steps: make([]foldStep, 300000)}, "very many states": {States: make([]foldState, 300000)},
 	} {
 		p.Name = "self"
 		w := good
@@ -697,7 +693,7 @@ func TestTeaWithoutEnd(t *testing.T) {
 			t.Errorf("%s: code %d", what, code)
 		}
 	}
-	for what, e := range map[string]teaEvent{"an event": {Kind: impl.TeaAppend, Key: "x", Event: ev("a", 1, trees[0])}, "a schema": {Kind: impl.TeaVersion, Name: "b", Form: kinds[0]}, "a lift": {Kind: impl.TeaVersion, Name: "a", Form: kForm(""), Lift: nodes[0]}} {
+	for what, e := range map[string]teaEvent{"an event": {Kind: impl.TeaAppend, Key: "x", Event: ev("a", 1, x)}, "a schema": {Kind: impl.TeaVersion, Name: "b", Form: k}, "a lift": {Kind: impl.TeaVersion, Name: "a", Form: kForm(""), Lift: n}} {
 		if next, _, code := impl.TeaDo(good, e); code != impl.TeaBadEvent && code != impl.TeaBadBook || !sameTea(next, good) {
 			t.Errorf("%s: code %d", what, code)
 		}

@@ -535,6 +535,10 @@ func TestScriptUnwritten(t *testing.T) {
 		if s := wantScript(t, []teaEvent{powered}); (s != "") != (good.Kind != impl.TeaVersion && good.Kind != impl.TeaFold) {
 			t.Errorf("%s with a loss of power: %q", what, s)
 		}
+		bare := losing(good, 0, 0)
+		if s := wantScript(t, []teaEvent{bare}); (s != "") != (good.Kind != impl.TeaVersion && good.Kind != impl.TeaFold) {
+			t.Errorf("%s with nothing but a loss of power: %q", what, s)
+		}
 		// One field more than the lines say.
 		for field, put := range map[string]func(e *teaEvent){
 			"Key": func(e *teaEvent) { e.Key = "x" }, "Event's type": func(e *teaEvent) { e.Event.Type = "a" }, "Event's version": func(e *teaEvent) { e.Event.Version = 1 }, "Event's body": func(e *teaEvent) { e.Event.Body = form("") }, "Part": func(e *teaEvent) { e.Part = 1 }, "Many": func(e *teaEvent) { e.Many = 1 }, "Name": func(e *teaEvent) { e.Name = "a" }, "Form": func(e *teaEvent) { e.Form = kForm("") }, "Form's names": func(e *teaEvent) { e.Form.Names = []string{"a"} }, "Lift": func(e *teaEvent) { e.Lift = nDrop() }, "Lift's number": func(e *teaEvent) { e.Lift = node{Num: 1} },
@@ -652,15 +656,10 @@ func TestScriptMany(t *testing.T) {
 
 // What holds itself, or is far too wide.
 func TestScriptWithoutEnd(t *testing.T) {
-	kinds := make([]kind, 1)
-	kinds[0] = kind{Sort: impl.TreeForm, Names: []string{"a"}, Kids: kinds}
-	nodes := make([]node, 1)
-	nodes[0] = node{Op: impl.LiftSome, Kids: nodes}
-	trees := make([]tree, 1)
-	trees[0] = tree{Sort: impl.TreeForm, Names: []string{"a"}, Kids: trees}
+	k, n, x := endless()
 	for what, e := range map[string]teaEvent{
-		"an event": {Kind: 1, Key: "x", Event: ev("a", 1, trees[0])}, "a schema": {Kind: 6, Name: "b", Form: kinds[0]}, "a lift": {Kind: 6, Name: "a", Form: kForm(""), Lift: nodes[0]}, "a start": tFold(foldPlan{Name: "x", States: []foldState{{Kind: kNum}}, Start: trees[0]}), "a state": tFold(foldPlan{Name: "x", States: []foldState{{Kind: kinds[0]}}, Start: num(1)}), "a step": tFold(foldPlan{Name: "x", States: []foldState{{Kind: kNum}}, Start: num(1), Steps: []foldStep{{Type: "a", Do: nodes[0]}}}),
-		"very many states": tFold(foldPlan{Name: "x", States: make([]foldState, 3000000), Start: num(1)}), "very many steps": tFold(foldPlan{Name: "x", States: []foldState{{Kind: kNum}}, Start: num(1), Steps: make([]foldStep, 3000000)}), "very much that is kept": {Kind: 2, Power: logAct{Cuts: true, Keep: make([]int, 3000000)}}, "beside": {Kind: 2, Event: ev("", 0, trees[0]), Form: kinds[0], Lift: nodes[0]},
+		"an event": {Kind: 1, Key: "x", Event: ev("a", 1, x)}, "a schema": {Kind: 6, Name: "b", Form: k}, "a lift": {Kind: 6, Name: "a", Form: kForm(""), Lift: n}, "a start": tFold(foldPlan{Name: "x", States: []foldState{{Kind: kNum}}, Start: x}), "a state": tFold(foldPlan{Name: "x", States: []foldState{{Kind: k}}, Start: num(1)}), "a step": tFold(foldPlan{Name: "x", States: []foldState{{Kind: kNum}}, Start: num(1), Steps: []foldStep{{Type: "a", Do: n}}}),
+		"very many states": tFold(foldPlan{Name: "x", States: make([]foldState, 3000000), Start: num(1)}), "very many steps": tFold(foldPlan{Name: "x", States: []foldState{{Kind: kNum}}, Start: num(1), Steps: make([]foldStep, 3000000)}), "very much that is kept": {Kind: 2, Power: logAct{Cuts: true, Keep: make([]int, 3000000)}}, "beside": {Kind: 2, Event: ev("", 0, x), Form: k, Lift: n},
 	} {
 		if s := impl.TeaWrite([]teaEvent{tSync, e}); s != "" {
 			t.Errorf("%s is written %.100q", what, s)

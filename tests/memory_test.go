@@ -6,6 +6,8 @@ import (
 	"strings"
 	"testing"
 	"unsafe"
+
+	"loop.example/teagle/impl"
 )
 
 // span is a piece of memory.
@@ -155,6 +157,15 @@ func wantMemory(t *testing.T, what string, tell func() any, arguments ...any) {
 			t.Errorf("%s: an argument of the type %T was changed", what, argument)
 		}
 	}
+}
+
+// endless are a schema, a node and a tree that hold themselves.
+func endless() (kind, node, tree) {
+	kinds, nodes, trees := make([]kind, 1), make([]node, 1), make([]tree, 1)
+	kinds[0] = kind{Sort: impl.TreeForm, Names: []string{"n"}, Kids: kinds}
+	nodes[0] = node{Op: impl.LiftSome, Kids: nodes}
+	trees[0] = tree{Sort: impl.TreeForm, Names: []string{"n"}, Kids: trees}
+	return kinds[0], nodes[0], trees[0]
 }
 
 // The tests' own eyes: shared memory and changes are seen.
