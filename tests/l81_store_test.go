@@ -551,8 +551,8 @@ func TestStoreOutlives(t *testing.T) {
 func TestStoreMany(t *testing.T) {
 	t.Parallel()
 	r := rand.New(rand.NewSource(80))
-	rited, dropped, large := 0, 0, 0
-	for range 7 {
+	rited, changed := 0, 0
+	for range 5 {
 		states := grownBooks(t, r, 8)
 		if len(states) == 0 {
 			continue
@@ -574,13 +574,13 @@ func TestStoreMany(t *testing.T) {
 			if at%3 == 0 {
 				wantRiteOutlives(t, r, states[at], d, part, many)
 			}
-			writes, code := wantRite(t, states[at], d, part, many)
+			writes, _ := wantRite(t, states[at], d, part, many)
 			d, _ = impl.StoreDo(d, writes, logAct{})
 			behind := wantStore(t, d)
-			if code == impl.LogFull {
-				large++
+			rited++
+			if !sameStore(before, behind) {
+				changed++
 			}
-			rited, dropped = rited+1, dropped+len(before.Records)-len(behind.Records)
 			for _, book := range states[at:] {
 				if a, b := impl.DeadReplay(book, before.Records, impl.HoldKey, nil), impl.DeadReplay(book, behind.Records, impl.HoldKey, nil); !sameDead(a, b) {
 					t.Errorf("%.300s becomes %.300s", deadText(a), deadText(b))
@@ -588,8 +588,8 @@ func TestStoreMany(t *testing.T) {
 			}
 		}
 	}
-	if rited < 12 || dropped < 1 {
-		t.Errorf("%d written anew, %d dropped, %d too large", rited, dropped, large)
+	if rited < 8 || changed < 4 {
+		t.Errorf("%d written anew, %d of them changed", rited, changed)
 	}
 }
 

@@ -393,7 +393,7 @@ func TestViewMany(t *testing.T) {
 	t.Parallel()
 	r := rand.New(rand.NewSource(84))
 	kinds, hows, newest, cuts, types := map[int]int{}, map[int]int{}, 0, 0, 0
-	for round := range 9 {
+	for round := range 6 {
 		var f follower
 		for step := range impl.TeaMaxEvents {
 			e := chanceTea(t, r, f.w, round%3 > 0)
@@ -429,11 +429,11 @@ func TestViewMany(t *testing.T) {
 		cuts += f.cuts
 	}
 	for kind := 1; kind <= 8; kind++ {
-		if kinds[kind] < 8 {
+		if kinds[kind] < 5 {
 			t.Errorf("kind %d happened %d times", kind, kinds[kind])
 		}
 	}
-	if newest < 60 || cuts < 40 || types < 8 || hows[0] < 1 || hows[1] < 1 || hows[2] < 1 {
+	if newest < 40 || cuts < 25 || types < 5 || hows[0] < 1 || hows[1] < 1 || hows[2] < 1 {
 		t.Errorf("%d of the newest versions, power lost %d times, %d types, folds %v", newest, cuts, types, hows)
 	}
 }
