@@ -700,6 +700,252 @@ func TestTeaWithoutEnd(t *testing.T) {
 	}
 }
 
+// withFold is the fold of the answer of TeaDo for a world with that fold alone.
+func withFold(t *testing.T, what string, p foldPlan) foldPlan {
+	t.Helper()
+	w := teaWorld{Folds: []foldPlan{p}}
+	w.Folds[0].Name = "great"
+	next, pos, code := impl.TeaDo(w, teaEvent{})
+	if pos != 0 || code != impl.TeaBadKind || len(next.Folds) != 1 || next.Folds[0].Name != "great" || &next.Folds[0] == &w.Folds[0] {
+		t.Fatalf("%s: position %d, code %d, %d folds", what, pos, code, len(next.Folds))
+	}
+	next.Folds[0].Name = p.Name
+	return next.Folds[0]
+}
+
+// foldsWith are folds that have a tree, a schema, or a node wherever one may stand.
+func foldsWith(x tree, k kind, n node) map[string]foldPlan {
+	return map[string]foldPlan{
+		"a start": {Start: x}, "a schema": {States: []foldState{{}, {Kind: k}}}, "a save": {States: []foldState{{Save: n}, {}}}, "a lift": {States: []foldState{{}, {Lift: n}}}, "a step": {Steps: []foldStep{{Type: "a"}, {Type: "b", Do: n}}},
+		"all": {Start: x, States: []foldState{{Kind: k, Save: n, Lift: n}, {Kind: k, Save: n, Lift: n}}, Steps: []foldStep{{Type: "a", Do: n}, {Type: "b", Do: n}}},
+	}
+}
+
+// A fold of a world may be as great as can be, and its lists may meet: in the answer each is in memory of its own.
+func TestTeaGreatFolds(t *testing.T) {
+	t.Parallel()
+	const many = 120000
+	x, k, n := tree{Text: strings.Clone("top"), Names: make([]string, many), Kids: make([]tree, many)}, kind{Names: make([]string, many), Kids: make([]kind, many)}, node{Op: 77, Text: strings.Clone("top"), Names: make([]string, many), Kids: make([]node, many)}
+	for i := range many / 4 {
+		x.Names[i], k.Names[i], n.Names[i] = fmt.Sprint(i), fmt.Sprint(i), fmt.Sprint(i)
+		x.Kids[i], k.Kids[i], n.Kids[i] = tree{Sort: i, Num: -i, Names: []string{"a"}, Kids: []tree{num(i)}}, kind{Sort: i, Names: []string{"a"}, Kids: []kind{{Sort: -i}}}, node{Op: i, Num: -i, Names: []string{"a"}, Kids: []node{nNum(i)}}
+	}
+	for what, p := range foldsWith(x, k, n) {
+		got := withFold(t, what, p)
+		wantNewMemory(t, what, got, p)
+		if !samePlanOfFold(got, p) {
+			t.Errorf("%s is not the same", what)
+		}
+	}
+	for what, p := range map[string]foldPlan{"very many steps": {Steps: make([]foldStep, many)}, "very many states": {States: make([]foldState, many)}} {
+		got := withFold(t, what, p)
+		wantNewMemory(t, what, got, p)
+		if !samePlanOfFold(got, p) {
+			t.Errorf("%s are not the same", what)
+		}
+	}
+}
+
+// Lists of a fold that meet, in whole or in part, do not meet in the answer.
+func TestTeaListsThatMeet(t *testing.T) {
+	names := strings.Fields("one two three four five")
+	trees, kinds, nodes := make([]tree, 9), make([]kind, 9), make([]node, 9)
+	for i := range 9 {
+		from := i/2 + 4 - i%2
+		trees[i] = tree{Sort: i, Num: -i, Text: names[i%5], Names: names[i%3 : 3+i%3], Kids: trees[min(9, i+1):min(9, from+3)]}
+		kinds[i] = kind{Sort: i, Names: names[i%3 : 3+i%3], Kids: kinds[min(9, i+1):min(9, from+2)]}
+		nodes[i] = node{Op: i, Num: -i, Text: names[i%5], Names: names[i%4:], Kids: nodes[min(9, i+1):min(9, from+4)]}
+	}
+	for what, p := range foldsWith(tree{Kids: trees, Names: names}, kind{Kids: kinds[1:], Names: names}, node{Kids: nodes[:8], Names: names}) {
+		got := withFold(t, what, p)
+		wantNewMemory(t, what, got, p)
+		if !samePlanOfFold(got, p) {
+			t.Errorf("%s is not the same", what)
+		}
+	}
+	one, other := foldPlan{Name: "one", Start: tree{Kids: trees}}, foldPlan{Name: "other", Start: tree{Kids: trees}}
+	w := teaWorld{Folds: []foldPlan{one, other}}
+	next, _, _ := impl.TeaDo(w, tMend)
+	wantNewMemory(t, "two folds", next, w)
+	wide := make([]node, 200000)
+	twice := foldPlan{States: []foldState{{Save: node{Kids: wide}, Lift: node{Kids: wide[1:]}}}, Steps: []foldStep{{Do: node{Kids: []node{{Kids: wide}, {Kids: wide[:7]}}}}}}
+	wantNewMemory(t, "great lists", withFold(t, "great lists", twice), twice)
+	most := make([]string, 1000000)
+	often := foldPlan{Start: tree{Kids: make([]tree, 12)}}
+	for i := range often.Start.Kids {
+		often.Start.Kids[i].Names = most
+	}
+	wantNewMemory(t, "one great list", withFold(t, "one great list", often), often)
+}
+
+// What holds itself, or has far more parts than memory has room for, is in other memory in the answer.
+func TestTeaOtherMemory(t *testing.T) {
+	t.Parallel()
+	k, n, x := endless()
+	for what, p := range foldsWith(x, k, n) {
+		wantOtherMemory(t, what+" that holds itself", withFold(t, what, p), p)
+	}
+	trees, kinds, nodes := make([]tree, 90), make([]kind, 90), make([]node, 90)
+	names := strings.Fields("one two three four five")
+	for i := range 90 {
+		trees[i] = tree{Num: i, Text: names[i%5], Names: names[i%3 : 3+i%3], Kids: trees[min(89, i+1):]}
+		kinds[i] = kind{Sort: i, Names: names[i%4:], Kids: kinds[min(90, i+1):min(90, i+3)]}
+		nodes[i] = node{Num: i, Text: names[i%5], Names: names[:i%5], Kids: nodes[i/2 : i+1]}
+	}
+	for what, p := range foldsWith(tree{Kids: trees}, kind{Kids: kinds}, node{Kids: nodes}) {
+		wantOtherMemory(t, what+" without end", withFold(t, what, p), p)
+	}
+}
+
+// wantPiecesOf: a tree whose kids, and theirs, are pieces of one list was copied; piece says which piece each one has. Of a list that was copied those are looked at that were not seen yet, from both its ends.
+func wantPiecesOf(t *testing.T, what string, got tree, list []tree, piece func(i int) (int, int)) {
+	t.Helper()
+	theirs := map[*tree]bool{}
+	for i := range list {
+		theirs[&list[i]] = true
+	}
+	seen := map[int]bool{}
+	rest := [][]tree{got.Kids}
+	look := func(one *tree) bool {
+		if theirs[one] {
+			t.Fatalf("%s: %d is the argument's", what, one.Num)
+		}
+		if seen[one.Num] {
+			return false
+		}
+		seen[one.Num] = true
+		from, to := piece(one.Num)
+		if len(one.Kids) != to-from || cap(one.Kids) != to-from || to > from && (one.Kids[0].Num != from || one.Kids[to-from-1].Num != to-1) {
+			t.Fatalf("%s: %d has %d kids, and room for %d, not those from %d to %d", what, one.Num, len(one.Kids), cap(one.Kids), from, to)
+		}
+		rest = append(rest, one.Kids)
+		return true
+	}
+	for len(rest) > 0 {
+		some := rest[len(rest)-1]
+		rest = rest[:len(rest)-1]
+		for i := 0; i < len(some) && look(&some[i]); i++ {
+		}
+		for i := len(some) - 1; i >= 0 && look(&some[i]); i-- {
+		}
+	}
+	if len(seen) != len(list) {
+		t.Errorf("%s: %d of %d are there", what, len(seen), len(list))
+	}
+}
+
+// Very many long lists that lie in one: there is no time, and no memory, for each of them alone.
+func TestTeaLongListsThatMeet(t *testing.T) {
+	t.Parallel()
+	const many = 200000
+	for what, way := range map[string]struct {
+		from, to int
+		piece    func(i int) (int, int)
+	}{
+		"all behind":               {0, many, func(i int) (int, int) { return i + 1, many }},
+		"itself and all behind":    {0, many, func(i int) (int, int) { return i, many }},
+		"all ahead":                {many - 1, many, func(i int) (int, int) { return 0, i }},
+		"longer and longer":        {0, 1, func(i int) (int, int) { return 0, min(many, i+2) }},
+		"longer and longer, ahead": {many - 1, many, func(i int) (int, int) { return max(0, i-1), many }},
+		"wide pieces":              {0, 1, func(i int) (int, int) { return i / 2, min(many, i+1000) }},
+	} {
+		list := make([]tree, many)
+		for i := range list {
+			from, to := way.piece(i)
+			list[i] = tree{Num: i, Kids: list[from:to]}
+		}
+		p := foldPlan{Start: tree{Kids: list[way.from:way.to]}}
+		wantPiecesOf(t, what, withFold(t, what, p).Start, list, way.piece)
+	}
+}
+
+// A fold may have very many levels.
+func TestTeaDeepFolds(t *testing.T) {
+	t.Parallel()
+	const deep = 3000000
+	bottom := text("bottom")
+	for level := range deep {
+		bottom = tree{Num: level, Kids: []tree{bottom}}
+	}
+	got := withFold(t, "very many levels", foldPlan{Start: bottom}).Start
+	for level := deep - 1; level >= 0; level-- {
+		if got.Num != level || len(got.Kids) != 1 || &got.Kids[0] == &bottom.Kids[0] {
+			t.Fatalf("level %d: %d, %d kids", level, got.Num, len(got.Kids))
+		}
+		got, bottom = got.Kids[0], bottom.Kids[0]
+	}
+	if !sameTree(got, text("bottom")) {
+		t.Errorf("at the bottom: %v", got)
+	}
+}
+
+// One long text may stand in very many places.
+func TestTeaLongTexts(t *testing.T) {
+	t.Parallel()
+	long := strings.Repeat("long", 3000000)
+	kids := make([]node, 1000)
+	for i := range kids {
+		kids[i] = node{Text: long, Names: []string{long}}
+	}
+	p := foldPlan{Steps: []foldStep{{Type: long, Do: node{Kids: kids}}}}
+	wantNewMemory(t, "long texts", withFold(t, "long texts", p), p)
+}
+
+// Folds by chance, whose lists are pieces of a few: what they come to is the same, in other memory, and if they end soon, all lists are apart.
+func TestTeaPiecesMany(t *testing.T) {
+	t.Parallel()
+	r := rand.New(rand.NewSource(831))
+	for round := range 400 {
+		names := strings.Fields("one two three four five six")
+		// Where it is to end, a piece lies behind what it is a piece of.
+		size, ends := 1+r.Intn(12), round%8 != 0
+		trees, nodes := make([]tree, size), make([]node, size)
+		piece := func(i int) (int, int) {
+			low := 0
+			if ends {
+				low = i + 1
+			}
+			from := low + r.Intn(size-low+1)
+			return from, from + r.Intn(min(4, size-from+1))
+		}
+		for i := range size {
+			from, to := piece(i)
+			trees[i] = tree{Num: i, Text: names[r.Intn(6)], Names: names[r.Intn(3) : 3+r.Intn(4)], Kids: trees[from:to]}
+			from, to = piece(i)
+			nodes[i] = node{Num: i, Text: names[r.Intn(6)], Names: names[r.Intn(3) : 3+r.Intn(4)], Kids: nodes[from:to]}
+		}
+		from, to := piece(-1)
+		p := foldPlan{Start: tree{Kids: trees[from:to]}, States: []foldState{{Save: nodes[r.Intn(size)]}, {Lift: nodes[r.Intn(size)]}}, Steps: []foldStep{{Do: node{Kids: nodes[r.Intn(size):]}}}}
+		got := withFold(t, "by chance", p)
+		wantOtherMemory(t, fmt.Sprint("round ", round), got, p)
+		if ends {
+			wantNewMemory(t, fmt.Sprint("round ", round), got, p)
+		}
+	}
+}
+
+// Lists that are pieces of one, in any order: however they meet, each has in the answer what it had.
+func TestTeaPiecesOfOne(t *testing.T) {
+	r := rand.New(rand.NewSource(832))
+	names, leaves := make([]string, 40), make([]tree, 40)
+	for i := range names {
+		names[i], leaves[i] = fmt.Sprint("name", i), num(i)
+	}
+	for range 1000 {
+		p := foldPlan{Start: tree{Kids: make([]tree, 1+r.Intn(20))}}
+		for i := range p.Start.Kids {
+			from := r.Intn(40)
+			to := from + r.Intn(min(12, 41-from))
+			p.Start.Kids[i] = tree{Kids: leaves[from:to], Names: names[from:to]}
+		}
+		got := withFold(t, "pieces", p)
+		wantNewMemory(t, "pieces", got, p)
+		if !samePlanOfFold(got, p) {
+			t.Fatalf("%v are not the same as %v", got.Start.Kids, p.Start.Kids)
+		}
+	}
+}
+
 // Nothing is written into an argument or behind its end, and every answer is new memory; also where something is refused.
 func TestTeaMemory(t *testing.T) {
 	long := foldOf(t, bookOf(t, "type a\nversion {l:[text]}\n"), "fold names\nstate {first:[text]}\nsave form first get l old end\nlift form l get first old end\nstate {l:[text]}\nstart {l:[\"start\"]}\non a new\n")

@@ -1,8 +1,10 @@
 package tests
 
 import (
+	"cmp"
 	"fmt"
 	"reflect"
+	"slices"
 	"strings"
 	"testing"
 	"unsafe"
@@ -13,12 +15,63 @@ import (
 // span is a piece of memory.
 type span struct{ from, to uintptr }
 
-func (s span) meets(other span) bool {
-	return s.from < other.to && other.from < s.to
+// apart says whether no two of some pieces meet.
+func apart(spans []span) bool {
+	end := uintptr(0)
+	for _, one := range slices.SortedFunc(slices.Values(spans), byFrom) {
+		if one.from < end {
+			return false
+		}
+		end = one.to
+	}
+	return true
+}
+
+// meeting says whether one of some pieces meets one of others.
+func meeting(some, others []span) bool {
+	type sided struct {
+		span
+		side int
+	}
+	var all []sided
+	for side, spans := range [2][]span{some, others} {
+		for _, one := range spans {
+			all = append(all, sided{one, side})
+		}
+	}
+	slices.SortFunc(all, func(a, b sided) int { return byFrom(a.span, b.span) })
+	var ends [2]uintptr
+	for _, one := range all {
+		if one.from < ends[1-one.side] {
+			return true
+		}
+		ends[one.side] = max(ends[one.side], one.to)
+	}
+	return false
+}
+
+func byFrom(a, b span) int {
+	return cmp.Compare(a.from, b.from)
 }
 
 // spansOf are the pieces of memory of the lists of a value, spare room included, and those of its texts.
 func spansOf(v reflect.Value) (lists, texts []span) {
+	return spansBut(v, nil)
+}
+
+// listAt is where a list stands, and what it is.
+type listAt struct {
+	from uintptr
+	size int
+	of   reflect.Type
+}
+
+func atOf(v reflect.Value) listAt {
+	return listAt{uintptr(v.UnsafePointer()), v.Len(), v.Type()}
+}
+
+// spansBut are the pieces of memory of a value, but of those of its lists that were seen; none is kept in mind, if seen is nil.
+func spansBut(v reflect.Value, seen map[listAt]bool) (lists, texts []span) {
 	switch v.Kind() {
 	case reflect.String:
 		if s := v.String(); s != "" {
@@ -30,45 +83,80 @@ func spansOf(v reflect.Value) (lists, texts []span) {
 			from := uintptr(v.UnsafePointer())
 			lists = append(lists, span{from, from + uintptr(v.Cap())*v.Type().Elem().Size()})
 		}
+		if seen[atOf(v)] {
+			return lists, texts
+		}
+		if seen != nil {
+			seen[atOf(v)] = true
+		}
 		fallthrough
 	case reflect.Array:
 		for i := range v.Len() {
-			l, s := spansOf(v.Index(i))
+			l, s := spansBut(v.Index(i), seen)
 			lists, texts = append(lists, l...), append(texts, s...)
 		}
 	case reflect.Struct:
 		for i := range v.NumField() {
-			l, s := spansOf(v.Field(i))
+			l, s := spansBut(v.Field(i), seen)
 			lists, texts = append(lists, l...), append(texts, s...)
 		}
 	}
 	return lists, texts
 }
 
+// alike says whether two values are the same, that may hold themselves: two lists that are being held against each other are so.
+func alike(a, b reflect.Value, seen map[[2]listAt]bool) bool {
+	switch a.Kind() {
+	case reflect.Slice:
+		both := [2]listAt{atOf(a), atOf(b)}
+		if a.Len() != b.Len() || a.Len() == 0 || seen[both] {
+			return a.Len() == b.Len()
+		}
+		seen[both] = true
+		for i := range a.Len() {
+			if !alike(a.Index(i), b.Index(i), seen) {
+				return false
+			}
+		}
+		return true
+	case reflect.Struct:
+		for i := range a.NumField() {
+			if !alike(a.Field(i), b.Field(i), seen) {
+				return false
+			}
+		}
+		return true
+	}
+	return a.Equal(b)
+}
+
 // wantNewMemory: an answer shares no memory with arguments, and no two of its lists share any.
 func wantNewMemory(t *testing.T, what string, answer any, arguments ...any) {
 	t.Helper()
 	lists, texts := spansOf(reflect.ValueOf(answer))
-	for i, one := range lists {
-		for _, other := range lists[:i] {
-			if one.meets(other) {
-				t.Errorf("%s: two lists of the answer share memory", what)
-				return
-			}
-		}
+	if !apart(lists) {
+		t.Errorf("%s: two lists of the answer share memory", what)
+		return
 	}
 	for _, argument := range arguments {
 		theirs, theirTexts := spansOf(reflect.ValueOf(argument))
-		for _, pair := range [][2][]span{{lists, theirs}, {texts, theirTexts}} {
-			for _, one := range pair[0] {
-				for _, other := range pair[1] {
-					if one.meets(other) {
-						t.Errorf("%s: the answer shares memory with an argument of the type %T", what, argument)
-						return
-					}
-				}
-			}
+		if meeting(lists, theirs) || meeting(texts, theirTexts) {
+			t.Errorf("%s: the answer shares memory with an argument of the type %T", what, argument)
+			return
 		}
+	}
+}
+
+// wantOtherMemory: an answer, which is to be the same as an argument, shares no memory with it; both may hold themselves.
+func wantOtherMemory(t *testing.T, what string, answer, argument any) {
+	t.Helper()
+	if !alike(reflect.ValueOf(answer), reflect.ValueOf(argument), map[[2]listAt]bool{}) {
+		t.Errorf("%s: the answer is not the same", what)
+	}
+	lists, texts := spansBut(reflect.ValueOf(answer), map[listAt]bool{})
+	theirs, theirTexts := spansBut(reflect.ValueOf(argument), map[listAt]bool{})
+	if meeting(lists, theirs) || meeting(texts, theirTexts) {
+		t.Errorf("%s: the answer shares memory with the argument", what)
 	}
 }
 
